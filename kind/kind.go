@@ -1,0 +1,44 @@
+// Package kind tells the kinds of elements by their names.
+package kind
+
+import "sync"
+
+// Kind: of an element.
+type Kind int
+
+const (
+	Plain Kind = iota
+	Void
+	Raw
+	Block
+	Limit
+)
+
+// The table is made when first it is asked, and only read from then on, so
+// that readers in several goroutines need no lock.
+var (
+	once  sync.Once
+	table map[string]Kind
+)
+
+func fill() {
+	table = map[string]Kind{
+		"br":     Void,
+		"hr":     Void,
+		"img":    Void,
+		"style":  Raw,
+		"script": Raw,
+		"p":      Block,
+		"div":    Block,
+		"ul":     Block,
+		"li":     Block,
+		"table":  Block,
+		"td":     Limit,
+	}
+}
+
+// Of answers the kind of the element that has this name, in small letters.
+func Of(name string) Kind {
+	once.Do(fill)
+	return table[name]
+}
