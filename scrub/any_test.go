@@ -62,20 +62,14 @@ func faultOfElement(n api.Node, depth int) string {
 	return ""
 }
 
-func checkAny(t *testing.T, s string) {
-	t.Helper()
-	l, e := scrub.Parse(s)
-	if bad := fault(l, 0); bad != "" || e != api.OK {
-		t.Fatalf("Parse(%q) = %s, %d: %s", s, told(l), e, bad)
-	}
-}
-
-func TestParseAny(t *testing.T) {
+// eachAny hands on markup good and bad: all short rows of pieces, and all pairs
+// of bytes where they count.
+func eachAny(check func(s string)) {
 	for _, a := range pieces {
 		for _, b := range pieces {
 			for _, c := range pieces {
-				checkAny(t, a+b+c)
-				checkAny(t, strings.Repeat(a, 11)+b+c+a+b)
+				check(a + b + c)
+				check(strings.Repeat(a, 11) + b + c + a + b)
 			}
 		}
 	}
@@ -83,24 +77,36 @@ func TestParseAny(t *testing.T) {
 		for b := range 256 {
 			two := string([]byte{byte(a), byte(b)})
 			for _, ahead := range []string{"", "<", "</", "<b ", "<b x=", "<style></style", "&"} {
-				checkAny(t, ahead+two+">")
+				check(ahead + two + ">")
 			}
 		}
 	}
+}
+
+// eachCut hands on all that can be cut out of long.
+func eachCut(check func(s string)) {
+	for from := range long {
+		for to := from; to <= len(long); to++ {
+			check(long[from:to])
+		}
+	}
+}
+
+func TestParseAny(t *testing.T) {
+	check := func(s string) {
+		l, e := scrub.Parse(s)
+		if bad := fault(l, 0); bad != "" || e != api.OK {
+			t.Fatalf("Parse(%q) = %s, %d: %s", s, told(l), e, bad)
+		}
+	}
+	eachAny(check)
+	eachCut(check)
 }
 
 // long is markup with all there is, to be cut anywhere.
 const long = `<P a=1 B='2' "c">x &amp; <b>y</p><!-- z --><ul><li>1<li>2<ul><li>3</ul></ul>` +
 	`<table>a<tr b=c><td>d<table><td>e</table></tr><td><p>f<p>g</table><style>h<i></style ><br/>&quot;` +
 	`<script x>j</script>k<a href="l&lt;" src=m/n>o`
-
-func TestParseCutAnywhere(t *testing.T) {
-	for from := range long {
-		for to := from; to <= len(long); to++ {
-			checkAny(t, long[from:to])
-		}
-	}
-}
 
 // lists collects all lists of a tree, however deep.
 func lists(l []api.Node) (nodes [][]api.Node, attrs [][]api.Attr) {

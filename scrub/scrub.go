@@ -4,6 +4,7 @@ package scrub
 import (
 	"scrub/api"
 	"scrub/tree"
+	"scrub/write"
 )
 
 // Parse reads markup (P3).
@@ -15,7 +16,12 @@ func Parse(s string) ([]api.Node, api.Errno) {
 }
 
 // Write writes a tree (P4).
-func Write(l []api.Node) (string, api.Errno) { return "", api.OK }
+func Write(l []api.Node) (string, api.Errno) {
+	if e := write.Check(l); e != api.OK {
+		return "", e
+	}
+	return write.Markup(l), api.OK
+}
 
 // Clean cleans markup (P5).
 func Clean(p api.Policy, s string) (string, api.Errno) { return "", api.OK }

@@ -20,12 +20,12 @@ func endsValue(c byte) bool {
 	return isBlank(c) || c == '>'
 }
 
-func endsRawName(c byte) bool {
+func endsName(c byte) bool {
 	return isBlankOrSlash(c) || c == '>'
 }
 
 func endsAttrName(c byte) bool {
-	return isBlankOrSlash(c) || c == '=' || c == '>'
+	return endsName(c) || c == '='
 }
 
 func smallByte(c byte) byte {

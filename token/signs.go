@@ -35,3 +35,26 @@ func firstRead(s string) (byte, int) {
 	}
 	return s[0], 1
 }
+
+// WriteSigns writes as signs those bytes of s that are among these, all of
+// which have one.
+func WriteSigns(s, these string) string {
+	var b strings.Builder
+	for i := range len(s) {
+		if strings.IndexByte(these, s[i]) >= 0 {
+			b.WriteString(signOf(s[i]))
+		} else {
+			b.WriteByte(s[i])
+		}
+	}
+	return b.String()
+}
+
+func signOf(c byte) string {
+	for _, known := range signs {
+		if known.read == c {
+			return known.written
+		}
+	}
+	return string([]byte{c})
+}

@@ -90,5 +90,16 @@ func endsRaw(s, name string) bool {
 	if !found || len(behind) <= len(name) {
 		return false
 	}
-	return small(behind[:len(name)]) == name && endsRawName(behind[len(name)])
+	return small(behind[:len(name)]) == name && endsName(behind[len(name)])
+}
+
+// HoldsEnd tells if the text, as that of the raw element of this name, would
+// end ahead of its own end.
+func HoldsEnd(text, name string) bool {
+	for at := range len(text) {
+		if endsRaw(text[at:], name) {
+			return true
+		}
+	}
+	return false
 }

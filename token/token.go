@@ -1,4 +1,5 @@
-// Package token reads markup token by token.
+// Package token reads markup token by token, and tells what is read again as
+// it is.
 package token
 
 import (

@@ -49,3 +49,58 @@ func TestNextStaysAtTheEnd(t *testing.T) {
 		}
 	}
 }
+
+func TestNames(t *testing.T) {
+	for s, want := range map[string][2]bool{
+		"":    {false, false},
+		"b":   {true, true},
+		"b1":  {true, true},
+		"B":   {false, false},
+		"bB":  {false, false},
+		"1b":  {false, true},
+		"b-c": {false, true},
+		"é":   {false, true},
+		"=":   {false, true},
+		"=b":  {false, true},
+		"b=":  {false, false},
+		"==":  {false, false},
+		"b c": {false, false},
+		"b\n": {false, false},
+		"/":   {false, false},
+		"b/":  {false, false},
+		">":   {false, false},
+		`"`:   {false, true},
+	} {
+		if got := [2]bool{IsName(s), IsAttrName(s)}; got != want {
+			t.Errorf("IsName and IsAttrName of %q: %v, want %v", s, got, want)
+		}
+	}
+}
+
+func TestHoldsEnd(t *testing.T) {
+	for s, want := range map[string]bool{
+		"":               false,
+		"</style":        false,
+		"</styles>":      false,
+		"</script>":      false,
+		"</style>":       true,
+		"a</STYLE\tb":    true,
+		"</</style/":     true,
+		"</style</style": false,
+	} {
+		if got := HoldsEnd(s, "style"); got != want {
+			t.Errorf("HoldsEnd(%q) = %v, want %v", s, got, want)
+		}
+	}
+}
+
+func TestWriteSigns(t *testing.T) {
+	if got, want := WriteSigns("a&b<c>d\"'\xff", "&<"), "a&amp;b&lt;c>d\"'\xff"; got != want {
+		t.Errorf("got %q, want %q", got, want)
+	}
+	for _, s := range []string{`&<>"`, `&amp;`, `&lt`, `"&quot;"`} {
+		if got := readSigns(WriteSigns(s, `&<>"`)); got != s {
+			t.Errorf("%q is written and read again as %q", s, got)
+		}
+	}
+}
