@@ -15,7 +15,8 @@ const (
 )
 
 // The table is made when first it is asked, and only read from then on, so
-// that readers in several goroutines need no lock.
+// that readers in several goroutines need no lock. It stands beside Of, which
+// the calls ask; the two tell the same.
 var (
 	once  sync.Once
 	table map[string]Kind
@@ -37,8 +38,23 @@ func fill() {
 	}
 }
 
-// Of answers the kind of the element that has this name, in small letters.
-func Of(name string) Kind {
+// Listed answers the same as Of, by the table.
+func Listed(name string) Kind {
 	once.Do(fill)
 	return table[name]
+}
+
+// Of answers the kind of the element that has this name, in small letters.
+func Of(name string) Kind {
+	switch name {
+	case "br", "hr", "img":
+		return Void
+	case "style", "script":
+		return Raw
+	case "p", "div", "ul", "li", "table":
+		return Block
+	case "td":
+		return Limit
+	}
+	return Plain
 }
