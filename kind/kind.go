@@ -16,7 +16,7 @@ const (
 
 // The table is made when first it is asked, and only read from then on, so
 // that readers in several goroutines need no lock. It stands beside Of, which
-// the calls ask; the two tell the same.
+// reading and writing ask; cleaning asks the table. The two tell the same.
 var (
 	once  sync.Once
 	table map[string]Kind

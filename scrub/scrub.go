@@ -2,14 +2,17 @@
 package scrub
 
 import (
+	"slices"
+
 	"scrub/api"
+	"scrub/clean"
 	"scrub/tree"
 	"scrub/write"
 )
 
 // Parse reads markup (P3).
 func Parse(s string) ([]api.Node, api.Errno) {
-	if len(s) > api.MaxText {
+	if isLong(s) {
 		return nil, api.ErrLong
 	}
 	return tree.Read(s), api.OK
@@ -24,7 +27,27 @@ func Write(l []api.Node) (string, api.Errno) {
 }
 
 // Clean cleans markup (P5).
-func Clean(p api.Policy, s string) (string, api.Errno) { return "", api.OK }
+func Clean(p api.Policy, s string) (string, api.Errno) {
+	switch {
+	case !clean.IsPolicy(p):
+		return "", api.ErrPolicy
+	case isLong(s):
+		return "", api.ErrLong
+	}
+	return clean.Markup(p, s), api.OK
+}
 
 // CleanAll cleans many (P6).
-func CleanAll(p api.Policy, l []string) ([]string, api.Errno) { return nil, api.OK }
+func CleanAll(p api.Policy, l []string) ([]string, api.Errno) {
+	switch {
+	case !clean.IsPolicy(p):
+		return nil, api.ErrPolicy
+	case len(l) > api.MaxTexts:
+		return nil, api.ErrMany
+	case slices.ContainsFunc(l, isLong):
+		return nil, api.ErrLong
+	}
+	return clean.All(p, l), api.OK
+}
+
+func isLong(s string) bool { return len(s) > api.MaxText }
