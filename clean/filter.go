@@ -23,7 +23,7 @@ func leftOf(p api.Policy, n api.Node) []api.Node {
 		return []api.Node{{Text: n.Text}}
 	case letsElement(p, n.Name):
 		return []api.Node{{Name: n.Name, Attrs: filterAttrs(p, n.Attrs), Kids: filter(p, n.Kids)}}
-	case kind.Listed(n.Name) == kind.Raw:
+	case kind.Of(n.Name) == kind.Raw:
 		return nil
 	}
 	return filter(p, n.Kids)

@@ -15,8 +15,8 @@ const (
 )
 
 // The table is made when first it is asked, and only read from then on, so
-// that readers in several goroutines need no lock. It stands beside Of, which
-// reading and writing ask; cleaning asks the table. The two tell the same.
+// that many may ask it at once without a lock. It stands beside Of, which
+// reading, writing and cleaning ask, and tells the same to those outside.
 var (
 	once  sync.Once
 	table map[string]Kind

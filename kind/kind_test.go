@@ -44,8 +44,8 @@ func TestListedTellsTheSame(t *testing.T) {
 }
 
 func TestListedByManyAtOnce(t *testing.T) {
-	// As if none had asked yet: the table is made for all of them, once.
-	once, table = sync.Once{}, nil
+	// The table is made for all of them, once.
+	Forget()
 	var wait sync.WaitGroup
 	for range 20 {
 		wait.Go(func() {

@@ -6,6 +6,7 @@ import (
 
 	"scrub/api"
 	"scrub/clean"
+	"scrub/kind"
 	"scrub/tree"
 	"scrub/write"
 )
@@ -49,5 +50,9 @@ func CleanAll(p api.Policy, l []string) ([]string, api.Errno) {
 	}
 	return clean.All(p, l), api.OK
 }
+
+// KindOf tells the kind of the elements that have this name, in small letters,
+// to those who make trees: what Kids Write takes hangs on it.
+func KindOf(name string) kind.Kind { return kind.Listed(name) }
 
 func isLong(s string) bool { return len(s) > api.MaxText }
